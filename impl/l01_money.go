@@ -73,6 +73,9 @@ func roundedQuotient(a uint64, b uint64, c uint64) (int64, bool) {
 		return 0, false
 	}
 	q, r := bits.Div64(high, low, c)
+	if q > MaxMoney { // before rounding, which would turn 2^64 - 1 into 0
+		return 0, false
+	}
 	if r > c-r || r == c-r && q%2 == 1 {
 		q++
 	}

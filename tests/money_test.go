@@ -74,6 +74,8 @@ func TestMulDivLimits(t *testing.T) {
 		{most, most, 1, 0, false}, {-most, most, 1, 0, false}, {most, most, 54210, 0, false}, {most, most, 54211, 0, false}, {400000000001, 5, 2, 0, false},
 		// a quotient of MaxMoney and a half is a tie, which rounds to MaxMoney
 		{666666666667, 3, 2, most, true}, {-666666666667, 3, 2, -most, true},
+		// MaxMoney and three quarters, or three fifths, is beyond the amounts only when it is rounded
+		{571428571429, 7, 4, 0, false}, {-571428571429, 7, 4, 0, false}, {294117647059, 17, 5, 0, false}, {-294117647059, 17, 5, 0, false},
 		{most + 1, 1, 1, 0, false}, {-most - 1, 1, 1, 0, false}, {most + 1, 0, 1, 0, false},
 		{1, most + 1, most, 0, false}, {1, -1, 1, 0, false}, {0, -1, 1, 0, false},
 		{1, 1, most + 1, 0, false}, {1, 1, 0, 0, false}, {1, 1, -1, 0, false}, {0, 0, 0, 0, false},
@@ -118,6 +120,61 @@ func TestMulDivExact(t *testing.T) {
 	source := rand.New(rand.NewSource(1))
 	for range 50000 {
 		check(randomUpTo(source, most)*(source.Int63n(2)*2-1), randomUpTo(source, most), randomUpTo(source, most-1)+1)
+	}
+}
+
+func rejectsMulDiv(t *testing.T, a, b, c int64) {
+	t.Helper()
+	for _, signed := range []int64{a, -a} {
+		if n, ok := impl.MulDiv(signed, b, c); n != 0 || ok {
+			t.Errorf("MulDiv(%d, %d, %d) = %d, %v; want 0, false", signed, b, c, n, ok)
+		}
+	}
+}
+
+// TestMulDivAboutTwoToThe64 takes products on both sides of 2^64 * c, where a result in one word would wrap around to an amount.
+// With c = x * x, (2^32 * x - y) * (2^32 * x + y) is 2^64 * c - y * y, while random arguments hardly ever come as near.
+func TestMulDivAboutTwoToThe64(t *testing.T) {
+	power := new(big.Int).Lsh(big.NewInt(1), 64)
+	below, at, roundedUp := 0, 0, 0
+	for x := int64(1); x<<32+x <= most; x++ {
+		c := x * x
+		for y := int64(0); y <= x; y++ {
+			a, b := x<<32-y, x<<32+y
+			rejectsMulDiv(t, a, b, c)
+			rejectsMulDiv(t, b, a, c)
+			rejectsMulDiv(t, b, b, c)
+			quotient := new(big.Int).Mul(big.NewInt(a), big.NewInt(b))
+			quotient.Quo(quotient, big.NewInt(c))
+			if quotient.Cmp(power) >= 0 {
+				at++
+				continue
+			}
+			below++
+			if 2*y*y <= c {
+				roundedUp++
+			}
+		}
+	}
+	// Without these the loop would not reach what it is for.
+	if below == 0 || at == 0 || roundedUp == 0 {
+		t.Error("below 2^64, at 2^64, rounded up to 2^64:", below, at, roundedUp)
+	}
+}
+
+func TestMulDivFarBeyondAmounts(t *testing.T) {
+	for _, r := range []struct{ a, b, c int64 }{
+		// 2^64 - 1 and more than a half, of divisors that are no squares
+		{999997426115, 996126743896, 54000}, {999998555596, 977734188382, 53003}, {999975664853, 922581015759, 50012},
+		// 2^64 - 1, 2^64 and 2^64 + 2^32; of the last two, the lower word alone is an amount
+		{1<<32 - 1, 1<<32 + 1, 1}, {1 << 32, 1 << 32, 1}, {1 << 32, 1<<32 + 1, 1},
+		// 2^64 again, and 2^66, with greater divisors
+		{1 << 39, 1 << 39, 1 << 14}, {1 << 39, 1 << 39, 1 << 12},
+		// 2^63 - 1, 2^63 and 2^63 + 1, where a signed word would wrap around
+		{60247241209, 153092023, 1}, {1 << 32, 1 << 31, 1}, {77158673929, 119537721, 1},
+		{most, most, 1}, {most, most, 2}, {most, most, 54210}, {most, most, 54211}, {most, 100000000, 1},
+	} {
+		rejectsMulDiv(t, r.a, r.b, r.c)
 	}
 }
 
